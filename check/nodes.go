@@ -92,10 +92,15 @@ func (p *Program) Field(t *Type, at int) (*Type, int, bool) {
 	if t.known == nil {
 		return nil, 0, false
 	}
+	if t.fields == nil {
+		for i := range t.known.Fields {
+			t.fields = append(t.fields, p.checker.fieldType(&t.known.Fields[i]))
+		}
+	}
 	for i := range t.known.Fields {
 		f := &t.known.Fields[i]
 		if at >= f.At && at < f.At+f.Size {
-			return p.checker.fieldType(f), at - f.At, true
+			return t.fields[i], at - f.At, true
 		}
 	}
 	return nil, 0, false

@@ -22,8 +22,10 @@ const (
 
 // Type is a type; there is just one of each, so that types alike are the same pointer.
 // To: what a pointer points to, an array's part, what a function answers.
+// Code is a short text that no two types have in common.
 type Type struct {
 	ID     int
+	Code   string
 	Kind   int
 	Width  api.Width
 	To     *Type
@@ -31,6 +33,7 @@ type Type struct {
 	Name   string
 	Params []*Type
 	known  *shape.Struct
+	fields []*Type
 }
 
 // typeKey is what two types that are alike have in common.
@@ -61,6 +64,7 @@ func (ts *types) make(t Type) *Type {
 		return old
 	}
 	t.ID = len(ts.made) + 1
+	t.Code = strconv.Itoa(t.ID)
 	ts.made[k] = &t
 	return &t
 }
