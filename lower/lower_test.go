@@ -113,7 +113,7 @@ func TestSteps(t *testing.T) { // P9.2: 40 times as many steps are enough, also 
 	var b strings.Builder
 	b.WriteString("int main() { int i; for (i = 0; i < 500; i += 1) {")
 	for k := range 900 {
-		b.WriteString("l" + string(rune('a'+k%26)) + string(rune('a'+k/26%26)) + string(rune('a'+k/676)) + ":")
+		b.WriteString("l" + string(rune('a'+k%26)) + string(rune('a'+k/26%26)) + string(rune('a'+k/676)) + ":;")
 	}
 	b.WriteString("; } return 4; }")
 	if !same(t, b.String(), "", api.MaxFuel) {
