@@ -47,8 +47,8 @@ func Uses(i *api.Ins, out []int) []int {
 	return out
 }
 
-// Rename gives each register that an instruction names its new number. Its Args are changed in place.
-func Rename(i *api.Ins, to func(int) int) {
+// Reread gives each register that an instruction reads its new number. Its Args are changed in place.
+func Reread(i *api.Ins, to func(int) int) {
 	if readsA(i) {
 		i.A = to(i.A)
 	}
@@ -60,6 +60,11 @@ func Rename(i *api.Ins, to func(int) int) {
 			i.Args[k] = to(i.Args[k])
 		}
 	}
+}
+
+// Rename gives each register that an instruction names its new number. Its Args are changed in place.
+func Rename(i *api.Ins, to func(int) int) {
+	Reread(i, to)
 	if Def(i) >= 0 {
 		i.D = to(i.D)
 	}
