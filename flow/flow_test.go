@@ -9,6 +9,7 @@ import (
 	"spokeshave/api"
 	"spokeshave/fold"
 	"spokeshave/ir"
+	"spokeshave/sample"
 	"spokeshave/walk"
 )
 
@@ -84,5 +85,27 @@ func TestSamples(t *testing.T) { // P15.1, P15.2
 		if Left(q) != 0 || !ir.Same(Prog(q), q) || ir.Count(q) > ir.Count(p) {
 			t.Fatalf("P15.1: seed %d: %d left", seed, Left(q))
 		}
+	}
+}
+
+func TestMiddle(t *testing.T) { // P15.2: of any program that touches no memory
+	ended := 0
+	for seed := range 1500 {
+		p := sample.Middle(seed)
+		if !ir.Check(p) {
+			t.Fatalf("seed %d: no program", seed)
+		}
+		if wrong := alike.Pass(p, "some input", Prog); wrong != "" {
+			t.Fatalf("P15.2: seed %d: %s", seed, wrong)
+		}
+		if Left(Prog(p)) != 0 {
+			t.Fatalf("seed %d: %d left", seed, Left(Prog(p)))
+		}
+		if ir.Run(p, []byte("some input"), 9999).Kind == api.Exited {
+			ended++
+		}
+	}
+	if ended < 250 {
+		t.Errorf("only %d came to their end", ended)
 	}
 }
