@@ -64,6 +64,26 @@ func (l *lowering) cond(n *check.Node) int {
 	return r
 }
 
+// returns answers a node's value. Each way of a cond has a return of its own, so that a call there is one at the end.
+func (l *lowering) returns(n *check.Node, turns ...*check.Type) {
+	if n.Kind == tree.Cond {
+		yes, no := l.block(), l.block()
+		l.decide(n.Subs[0], yes, no)
+		turns = append(turns[:len(turns):len(turns)], n.Type)
+		l.start(yes)
+		l.returns(n.Subs[1], turns...)
+		l.start(no)
+		l.returns(n.Subs[2], turns...)
+		return
+	}
+	r, t := l.value(n), l.prog.Value(n)
+	for k := len(turns) - 1; k >= 0; k-- {
+		r = l.turn(r, t, turns[k])
+		t = turns[k]
+	}
+	l.end(api.Ins{Op: api.OpRet, A: l.turn(r, t, l.fn.Sym.Type.To)})
+}
+
 func (l *lowering) set(n *check.Node) int {
 	to, from := n.Subs[0], n.Subs[1]
 	p := l.place(to)

@@ -47,7 +47,7 @@ func TestForm(t *testing.T) { // P9.1
 
 func TestBlocks(t *testing.T) { // P9.1
 	for body, want := range map[string]int{
-		"v = f(v / 2) % 3 + w[v] - !v; putbyte(v); return (char)v;": 1, "return g(1) ? v : 1;": 4, "if (f(v) / v) v = 1;": 3, "int i; switch (v + 1) { case 1: v = 2; }": 3, "return f(1);": 1,
+		"v = f(v / 2) % 3 + w[v] - !v; putbyte(v); return (char)v;": 1, "return g(1) ? v : 1;": 3, "v = g(1) ? v : 1;": 4, "if (f(v) / v) v = 1;": 3, "int i; switch (v + 1) { case 1: v = 2; }": 3, "return f(1);": 1,
 	} {
 		p := made(t, "int v; int w[3]; int f(int a) { return a; } int g(int a) { return 1; } int main() {"+body+"}")
 		if got := len(p.Fns[2].Blocks); got != want {

@@ -29,8 +29,8 @@ func ops(p api.Prog, op int) int {
 
 func TestCalls(t *testing.T) { // P20.1, P20.2
 	head := "typedef int F(int, int); int odd(int n); int even(int n) { if (n == 0) return 1; return odd(n - 1); } int odd(int n) { if (n == 0) return 0; return even(n - 1); } int gcd(int a, int b) { return b ? gcd(b, a % b) : a; } int six(int a, int b, int c, int d, int e, int f) { if (a == 0) return b + 2 * c + 3 * d + 4 * e + 5 * f; return six(a - 1, c, b, e, f, d); } void out(int n) { if (n == 0) return; putbyte(n); out(n - 1); } int slot(int n) { &n; if (n == 0) return 3; return slot(n - 1); } F *h = gcd; int at(int a, int b) { return h(a, b); } "
-	for body, c := range map[string]struct{ left, tails, at, code int }{
-		"return even(7);": {5, 3, 1, 0}, "return gcd(48, 18) + 1;": {4, 2, 1, 7}, "return six(5, 1, 2, 3, 4, 5);": {5, 3, 1, 0}, "out(5); return 2;": {4, 2, 1, 2}, "return slot(4);": {5, 3, 1, 3}, "return at(48, 18);": {5, 3, 1, 6}, "int x; x = even(3); return x + 1;": {4, 2, 1, 1}, "return h(48, 18);": {4, 2, 2, 6},
+	for body, c := range map[string]struct{ at, code int }{
+		"return even(7);": {1, 0}, "return gcd(48, 18) + 1;": {1, 7}, "return six(5, 1, 2, 3, 4, 5);": {1, 0}, "out(5); return 2;": {1, 2}, "return slot(4);": {1, 3}, "return at(48, 18);": {1, 6}, "int x; x = even(3); return x + 1;": {1, 1}, "return h(48, 18);": {2, 6},
 	} {
 		p := fold.Prog(alike.Text(head + "int main() {" + body + "}"))
 		q := Prog(p)
