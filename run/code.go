@@ -37,7 +37,13 @@ type code struct {
 	rooms  []*room
 	bytes  int
 	labels map[string]int
-	gotos  map[int]string
+	gotos  []jump
+}
+
+// jump is an op that leads to a label.
+type jump struct {
+	at   int
+	name string
 }
 
 // loop is where a break and a continue lead: the ops that wait for it.
@@ -47,14 +53,14 @@ type loop struct {
 
 // flatten lays a function's statements flat.
 func flatten(p *check.Program, fn *check.Fn) *code {
-	c := &code{fn: fn, labels: map[string]int{}, gotos: map[int]string{}}
+	c := &code{fn: fn, labels: map[string]int{}}
 	for _, s := range fn.Vars {
 		c.rooms = append(c.rooms, &room{prog: p, typ: s.Type})
 		c.bytes += (s.Type.Size() + 15) / 16 * 16
 	}
 	c.stmt(fn.Body, nil, nil)
-	for at, name := range c.gotos {
-		c.ops[at].to = c.labels[name]
+	for _, g := range c.gotos {
+		c.ops[g.at].to = c.labels[g.name]
 	}
 	return c
 }
@@ -96,7 +102,7 @@ func (c *code) stmt(s *check.Stmt, brk *loop, cont *loop) {
 	case tree.Return:
 		c.add(op{kind: opReturn, node: s.Exprs[0]})
 	case tree.Goto:
-		c.gotos[c.add(op{kind: opGoto})] = s.Name
+		c.gotos = append(c.gotos, jump{at: c.add(op{kind: opGoto}), name: s.Name})
 	case tree.Label:
 		c.labels[s.Name] = len(c.ops)
 		c.stmts(s.Body, brk, cont)

@@ -28,13 +28,12 @@ type operand struct {
 }
 
 const (
-	rax    = 0
-	rcx    = 2
-	rdx    = 3
-	rdi    = 5
-	rsp    = 7
-	r15    = 15
-	inCode = -2 // the base of an operand that is a label's address
+	rax = 0
+	rcx = 2
+	rdx = 3
+	rdi = 5
+	rsp = 7
+	r15 = 15
 )
 
 // registerOf answers the register that has a name (behind %), and its bits.
