@@ -113,21 +113,90 @@ func word(sub int) string {
 	return ""
 }
 
-// compare answers the word that tells a compare.
-func compare(sub int) string {
+// compare answers how a compare is told, and how its contrary is.
+func compare(sub int) (string, string) {
 	switch sub {
 	case api.Eq:
-		return "sete"
+		return "e", "ne"
 	case api.Ne:
-		return "setne"
+		return "ne", "e"
 	case api.Lt:
-		return "setl"
+		return "l", "ge"
 	case api.Le:
-		return "setle"
+		return "le", "g"
 	case api.ULt:
-		return "setb"
+		return "b", "ae"
 	}
-	return "setbe"
+	return "be", "a"
+}
+
+// truth brings to a register whether a compare holds.
+func (w *writer) truth(sub int, d int) {
+	cc, _ := compare(sub)
+	w.ins("set"+cc, "%al")
+	w.ins("movzbq", "%al", w.target(d))
+	w.done(d)
+}
+
+// told writes what does an operation whose number is told.
+func (w *writer) told(i *api.Ins, h how) {
+	to := w.target(i.D)
+	switch {
+	case isCompare(h.sub):
+		w.ins("cmpq", number(h.n), w.into(i.A, "%rax"))
+		w.truth(h.sub, i.D)
+		return
+	case (h.sub == api.Add || h.sub == api.Sub) && !w.spilled(i.A) && w.at(i.A) != to:
+		w.sum(i, h, to)
+	case h.sub == api.Shl || h.sub == api.Shr || h.sub == api.Sar:
+		w.moved(w.at(i.A), to)
+		w.ins(word(h.sub), number(h.n&63), to)
+	default:
+		w.moved(w.at(i.A), to)
+		w.ins(word(h.sub), number(h.n), to)
+	}
+	w.done(i.D)
+}
+
+// sum brings a register's number, and one that is told, to another register.
+func (w *writer) sum(i *api.Ins, h how, to string) {
+	n := h.n
+	if h.sub == api.Sub {
+		n = -n
+	}
+	switch {
+	case n == 0:
+		w.ins("movq", w.at(i.A), to)
+	case !fits(n):
+		w.ins("movq", w.at(i.A), to)
+		w.ins(word(h.sub), number(h.n), to)
+	default:
+		w.ins("leaq", decimal(n)+"("+w.at(i.A)+")", to)
+	}
+}
+
+// compares leads where a branch by a compare leads.
+func (w *writer) compares(c *api.Ins, h how, branch *api.Ins, b int) {
+	a := w.into(c.A, "%rax")
+	sub := c.Sub
+	if h.told {
+		sub = h.sub
+		w.ins("cmpq", number(h.n), a)
+	} else {
+		w.ins("cmpq", w.at(c.B), a)
+	}
+	yes, no := compare(sub)
+	w.fork(yes, no, branch, b)
+}
+
+// fork leads to the first block of a branch, if yes holds, else to the other one.
+func (w *writer) fork(yes string, no string, branch *api.Ins, b int) {
+	if branch.To[0] == b+1 {
+		w.ins("j"+no, w.block(branch.To[1]))
+		return
+	}
+	w.ins("j"+yes, w.block(branch.To[0]))
+	w.jump(branch.To[1], b)
 }
 
 func (w *writer) binary(i *api.Ins) {
@@ -143,9 +212,7 @@ func (w *writer) binary(i *api.Ins) {
 	case api.Eq, api.Ne, api.Lt, api.Le, api.ULt, api.ULe:
 		a := w.into(i.A, "%rax")
 		w.ins("cmpq", w.at(i.B), a)
-		w.ins(compare(i.Sub), "%al")
-		w.ins("movzbq", "%al", w.target(i.D))
-		w.done(i.D)
+		w.truth(i.Sub, i.D)
 	default:
 		to := w.target(i.D)
 		if to == w.at(i.B) && to != w.at(i.A) {
@@ -215,12 +282,11 @@ func (w *writer) saved(m int) string {
 func (w *writer) end(i *api.Ins, at spot) {
 	switch i.Op {
 	case api.OpJump:
-		w.jump(i.To[0], at)
+		w.jump(i.To[0], at.block)
 	case api.OpBranch:
 		a := w.into(i.A, "%rax")
 		w.ins("testq", a, a)
-		w.ins("jne", w.block(i.To[0]))
-		w.jump(i.To[1], at)
+		w.fork("ne", "e", i, at.block)
 	case api.OpSwitch:
 		w.choice(i)
 	case api.OpRet:
@@ -249,8 +315,8 @@ func (w *writer) end(i *api.Ins, at spot) {
 }
 
 // jump leads to a block, unless that comes next.
-func (w *writer) jump(to int, at spot) {
-	if to != at.block+1 {
+func (w *writer) jump(to int, b int) {
+	if to != b+1 {
 		w.ins("jmp", w.block(to))
 	}
 }

@@ -20,9 +20,12 @@ const (
 // spot is where an instruction stands.
 type spot struct{ block, ins int }
 
-// plan is where a function keeps its registers and slots. frame: the bytes that it takes below the address that is pushed; saves: where each register of the machine is kept over calls (-1: nowhere); kept: those that are, by call.
+// plan is where a function keeps its registers and slots. frame: the bytes that it takes below the address that is pushed; saves: where each register of the machine is kept over calls (-1: nowhere); kept: those that are, by call; joined: the blocks whose last branch is by a compare; calls: whether there are calls at all.
 type plan struct {
 	fn     api.Fn
+	hows   [][]how
+	joined []bool
+	calls  bool
 	places []int
 	slots  []int
 	frame  int
@@ -40,9 +43,13 @@ func sound(f api.Fn) api.Fn {
 
 // planned plans a function that walk.Form lets.
 func planned(f api.Fn) *plan {
-	p := &plan{fn: sound(f), kept: map[spot][]int{}}
+	p := &plan{kept: map[spot][]int{}}
+	p.fn, p.hows = shaped(sound(f))
 	p.places = alloc.Places(p.fn, machine)
 	l := span.Of(&p.fn)
+	for b := range p.fn.Blocks {
+		p.joined = append(p.joined, joined(&p.fn, p.hows, l, b))
+	}
 	p.begins = l.In[0].List()
 	p.keep(l)
 	at := 0
@@ -78,6 +85,7 @@ func (p *plan) keep(l *span.Live) {
 		if i.Op != api.OpCall && i.Op != api.OpCallAt {
 			return
 		}
+		p.calls = true
 		now.Each(func(r int) {
 			if m := p.places[r]; r != walk.Def(i) && m < machine {
 				p.kept[spot{b, k}] = append(p.kept[spot{b, k}], m)
