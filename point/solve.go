@@ -38,6 +38,16 @@ func (s *set) join(from set) bool {
 	return more
 }
 
+// without answers what is not in other.
+func (s set) without(other set) set {
+	out := make(set, len(s))
+	copy(out, s)
+	for k := range min(len(s), len(other)) {
+		out[k] &^= other[k]
+	}
+	return out
+}
+
 func (s set) list() []int {
 	var out []int
 	for k, w := range s {
@@ -228,8 +238,9 @@ func (s *solver) link(c call, callee int) {
 
 // visit leads on what a node has got since it was last visited.
 func (s *solver) visit(n int) {
-	for _, t := range s.sets[n].list() {
-		if s.done[n].add(t) {
+	if len(s.calls[n])+len(s.loads[n])+len(s.stores[n]) > 0 {
+		for _, t := range s.sets[n].without(s.done[n]).list() {
+			s.done[n].add(t)
 			s.follow(n, s.things[t])
 		}
 	}
