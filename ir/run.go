@@ -4,6 +4,7 @@ import (
 	"slices"
 
 	"spokeshave/api"
+	"spokeshave/little"
 	"spokeshave/word"
 )
 
@@ -77,7 +78,7 @@ func (m *machine) fill() {
 				n = address(piece.Func - 1)
 			}
 			at := m.starts[k] + int64(piece.At)
-			put(m.data[at:at+int64(piece.Bytes)], n)
+			little.Put(m.data[at:at+int64(piece.Bytes)], n)
 		}
 	}
 }
@@ -85,22 +86,6 @@ func (m *machine) fill() {
 func upwards(n int64) int64 { return (n + 15) / 16 * 16 }
 
 func address(fn int) int64 { return api.CodeBase + fnBytes*int64(fn) }
-
-// put writes a number's lowest bytes, the lowest one first.
-func put(to []byte, n int64) {
-	for i := range to {
-		to[i] = byte(n >> (8 * i))
-	}
-}
-
-// get reads a number.
-func get(from []byte) int64 {
-	n := int64(0)
-	for i, b := range from {
-		n |= int64(b) << (8 * i)
-	}
-	return n
-}
 
 func (m *machine) stop(kind int, code int64) {
 	m.kind = kind
@@ -220,9 +205,9 @@ func (m *machine) touch(i *api.Ins, r []int64) {
 	case b == nil:
 		m.stop(api.Undefined, 0)
 	case i.Op == api.OpStore:
-		put(b, r[i.B])
+		little.Put(b, r[i.B])
 	default:
-		r[i.D] = word.Wrap(i.W, get(b))
+		r[i.D] = word.Wrap(i.W, little.Get(b))
 	}
 }
 

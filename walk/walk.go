@@ -131,6 +131,22 @@ func CopyProg(p api.Prog) api.Prog {
 	return out
 }
 
+// Each goes over all instructions of a function.
+func Each(f *api.Fn, do func(i *api.Ins)) {
+	for b := range f.Blocks {
+		for k := range f.Blocks[b].Ins {
+			do(&f.Blocks[b].Ins[k])
+		}
+	}
+}
+
+// EachOf goes over all instructions of a program.
+func EachOf(p *api.Prog, do func(i *api.Ins)) {
+	for f := range p.Fns {
+		Each(&p.Fns[f], do)
+	}
+}
+
 // Size answers how many instructions a function has.
 func Size(f *api.Fn) int {
 	n := 0

@@ -4,6 +4,7 @@ import (
 	"slices"
 
 	"spokeshave/api"
+	"spokeshave/little"
 	"spokeshave/word"
 )
 
@@ -79,7 +80,7 @@ func (c *Code) run(input []byte, fuel int, stack int) *machine {
 	}
 	m := &machine{code: c, at: c.main, input: input, data: make([]byte, c.size), stack: make([]byte, stack), low: api.StackTop - int64(stack)}
 	for _, w := range c.first {
-		put(m.data[w.at:w.at+w.bytes], w.n)
+		little.Put(m.data[w.at:w.at+w.bytes], w.n)
 	}
 	m.regs[r15] = m.low
 	m.regs[rsp] = api.StackTop - 8
@@ -97,22 +98,6 @@ func (c *Code) run(input []byte, fuel int, stack int) *machine {
 	}
 	m.kind = api.OutOfFuel
 	return m
-}
-
-// put writes a number's lowest bytes, the lowest one first.
-func put(to []byte, n int64) {
-	for k := range to {
-		to[k] = byte(n >> (8 * k))
-	}
-}
-
-// get reads a number.
-func get(from []byte) int64 {
-	n := int64(0)
-	for k, b := range from {
-		n |= int64(b) << (8 * k)
-	}
-	return n
 }
 
 // fault ends the run; it answers false for those who end by it.
@@ -169,7 +154,7 @@ func (m *machine) value(o *operand, bytes int64) (int64, bool) {
 		return m.regs[o.reg], true
 	case memory, near:
 		b := m.bytes(m.address(o), bytes)
-		return get(b), b != nil
+		return little.Get(b), b != nil
 	}
 	return o.n, true
 }
@@ -177,7 +162,7 @@ func (m *machine) value(o *operand, bytes int64) (int64, bool) {
 // store writes a number's lowest bytes to a memory operand.
 func (m *machine) store(o *operand, n int64, bytes int64) {
 	if b := m.bytes(m.address(o), bytes); b != nil {
-		put(b, n)
+		little.Put(b, n)
 	}
 }
 
@@ -185,7 +170,7 @@ func (m *machine) store(o *operand, n int64, bytes int64) {
 func (m *machine) push(n int64) bool {
 	m.regs[rsp] -= 8
 	b := m.bytes(m.regs[rsp], 8)
-	put(b, n)
+	little.Put(b, n)
 	return b != nil
 }
 
@@ -193,7 +178,7 @@ func (m *machine) push(n int64) bool {
 func (m *machine) pop() (int64, bool) {
 	b := m.bytes(m.regs[rsp], 8)
 	m.regs[rsp] += 8
-	return get(b), b != nil
+	return little.Get(b), b != nil
 }
 
 // lead goes on at an address.
