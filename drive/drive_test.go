@@ -132,3 +132,16 @@ func TestBound(t *testing.T) { // P25.3
 		t.Errorf("P25.3: %v", got)
 	}
 }
+
+func TestTight(t *testing.T) { // P25.3: so many bytes are enough, and no more are told than are asked for
+	s := "int h(int x) { long a[500]; a[x] = x; return a[x]; } int g(int x) { long a[700]; a[x] = h(x) + h(x + 1); return a[x]; } int f(int x) { int a[300]; a[x] = g(x); return a[x] + h(3); } int main() { putbyte(65); return f(2) + g(4); }"
+	for _, f := range []api.Flags{{}, All(50), {Tail: true}} {
+		bound := Bound(s, f)
+		text, _ := Compile(s, f)
+		c, _ := x86.Read(text)
+		enough, less := c.Run(nil, 9999, bound), c.Run(nil, 9999, bound-16)
+		if bound <= api.MinStack || enough.Kind != api.Exited || less.Kind != api.Overflow || c.Deepest(nil, 9999)+ahead != bound {
+			t.Errorf("P25.3: %v: %d: %v, %v, %d deep", f, bound, enough, less, c.Deepest(nil, 9999))
+		}
+	}
+}
