@@ -50,6 +50,9 @@ func Fuel(p api.Prog, input string, most int) int {
 // Sample answers the program of a sample, if its text's run is Exited.
 func Sample(seed int, input string) (api.Prog, bool) {
 	s := sample.Program(seed)
+	if seed%5 < 2 {
+		s = sample.Typed(seed)
+	}
 	if run.Program(s, []byte(input), 20000).Kind != api.Exited {
 		return api.Prog{}, false
 	}

@@ -80,6 +80,9 @@ func holds(t *testing.T, s string, input string, steps int, f api.Flags, want ap
 func TestSamples(t *testing.T) { // P25.2, P25.3
 	for seed := range 24 {
 		s := sample.Program(1000 + seed)
+		if seed%2 == 1 {
+			s = sample.Typed(seed)
+		}
 		want := run.Program(s, []byte("some"), 20000)
 		if want.Kind != api.Exited {
 			continue

@@ -127,6 +127,7 @@ func TestSamples(t *testing.T) { // P9.2
 		if same(t, sample.Program(seed), "some", 20000) {
 			ended++
 		}
+		same(t, sample.Typed(seed), "some", 20000)
 	}
 	if ended < 100 {
 		t.Errorf("only %d samples came to their end", ended)
