@@ -16,6 +16,9 @@ func Middle(seed int) api.Prog {
 			fn.Slots = []int{1 + g.pick(99), 8}
 		}
 		fn.Regs = fn.Params + 1 + g.pick(20)
+		if g.pick(4) == 0 {
+			fn.Regs += 40
+		}
 		p.Fns = append(p.Fns, fn)
 	}
 	for f := range p.Fns {
@@ -34,7 +37,11 @@ func (g *grower) blocks(p *api.Prog, f *api.Fn) {
 				ins = append(ins, api.Ins{Op: api.OpConst, D: r, N: g.value()})
 			}
 		}
-		for range g.pick(7) {
+		long := g.pick(7)
+		if f.Regs > 40 {
+			long *= 6
+		}
+		for range long {
 			ins = append(ins, g.middle(p, f))
 		}
 		ins = append(ins, g.end(p, f, n)...)
