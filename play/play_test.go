@@ -2,6 +2,7 @@ package play
 
 import (
 	"reflect"
+	"sync"
 	"testing"
 
 	"spokeshave/api"
@@ -70,4 +71,20 @@ func TestSamples(t *testing.T) { // P26.1
 			}
 		}
 	}
+}
+
+func TestAtOnce(t *testing.T) { // R5: from several goroutines at one time
+	s := sample.Program(77)
+	want := Run(s, []byte("ab"), 20000, drive.Sets(40)...)
+	var all sync.WaitGroup
+	for range 6 {
+		all.Add(1)
+		go func() {
+			defer all.Done()
+			if got := Run(s, []byte("ab"), 20000, drive.Sets(40)...); !reflect.DeepEqual(got, want) {
+				t.Error("R5: it comes to something else")
+			}
+		}()
+	}
+	all.Wait()
 }
