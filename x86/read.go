@@ -33,7 +33,7 @@ type reader struct {
 
 // Read answers the code of lines, or where they are wrong.
 func Read(s string) (*Code, api.Wrong) {
-	r := &reader{code: &Code{text: s}, labels: map[string]int{}, vars: map[string]int{}, bad: len(s) + 1}
+	r := &reader{code: &Code{text: strings.Clone(s)}, labels: map[string]int{}, vars: map[string]int{}, bad: len(s) + 1}
 	for at := 0; at < len(s); {
 		end := strings.IndexByte(s[at:], '\n')
 		if end < 0 {
