@@ -56,9 +56,7 @@ func (l *lowering) cond(n *check.Node) int {
 		} else {
 			l.emit(api.Ins{Op: api.OpMove, D: r, A: l.as(part, n.Type)})
 		}
-		if l.cur >= 0 {
-			l.jump(past)
-		}
+		l.lead(past)
 	}
 	l.start(past)
 	return r
