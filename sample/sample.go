@@ -21,6 +21,7 @@ func Program(seed int) string {
 	g := &grower{seed: uint64(seed)*2862933555777941757 + 3037000493, self: -1}
 	g.b.WriteString("typedef int F(int, int);\nstruct N { int v; unsigned char c; struct N *n; int a[4]; F *f; };\n")
 	g.b.WriteString("int g0 = 3; unsigned g1 = 7u; char g2 = -2; long g3; unsigned short g4; unsigned long g5 = 9ul;\nint ga[8] = {1, 2, 3}; unsigned char gb[8]; struct N gn; struct N gs[4]; int *gp; F *gf; F *gt[4];\n")
+	g.b.WriteString("typedef F *P(F *, int); F *sel(F *a, int k) { return k & 1 ? a : gt[k & 3]; } P *gsel = sel;\n")
 	g.b.WriteString("int nop(int x, int y) { return x; }\nint add(int x, int y) { return (x & 1023) + (y & 1023); }\nint count(int x, int y) { if (x <= 0) return y & 255; return count(x - 1, y + 1); }\n")
 	count := 1 + g.pick(4)
 	for range count {
@@ -150,7 +151,7 @@ func (g *grower) called(depth int) string {
 		return "g0"
 	}
 	args := "(" + g.small() + ", " + g.expr(depth) + ")"
-	return g.one(g.named(), g.named(), "(*"+g.named()+")", "lf", "gf", "gt["+g.at(4)+"]", "(l0 ? lf : "+g.named()+")", "(gf ? gf : add)") + args
+	return g.one(g.named(), g.named(), "(*"+g.named()+")", "lf", "gf", "gt["+g.at(4)+"]", "(l0 ? lf : "+g.named()+")", "(gf ? gf : add)", "sel("+g.named()+", "+g.number(4)+")", "gsel(lf, l0 & 7)") + args
 }
 
 func (g *grower) stmt(depth int) {
@@ -205,7 +206,7 @@ func (g *grower) stmts(depth int) {
 	}
 }
 
-// loop writes a loop that ends; each depth of loops has its own counter.
+// loop writes a loop that ends, now and then by gotos, or one that a goto leads into; each depth of loops has its own counter.
 func (g *grower) loop(depth int) {
 	if g.loops == 3 {
 		g.stmt(0)
@@ -215,7 +216,21 @@ func (g *grower) loop(depth int) {
 	n := strconv.Itoa(1 + g.pick(5))
 	g.loops++
 	w := g.b.WriteString
-	switch g.pick(3) {
+	switch g.pick(5) {
+	case 3:
+		g.labels++
+		l := "q" + strconv.Itoa(g.labels)
+		w(k + " = " + n + "; " + l + ":;\n")
+		g.stmts(depth - 1)
+		w("if ((" + k + " -= 1) > 0) goto " + l + ";\n")
+	case 4:
+		g.labels++
+		l := "q" + strconv.Itoa(g.labels)
+		w(k + " = " + n + "; goto " + l + "; while (" + k + ") {\n" + k + " -= 1;\n")
+		g.stmts(depth - 1)
+		w(l + ":;\n")
+		g.stmts(depth - 1)
+		w("}\n")
 	case 0:
 		w("for (" + k + " = 0; " + k + " < " + n + "; " + k + " += 1) {\n")
 		g.stmts(depth - 1)
