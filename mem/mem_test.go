@@ -112,7 +112,13 @@ func TestHeld(t *testing.T) { // P6.2
 }
 
 func TestNil(t *testing.T) { // R3
-	var m *Mem
+	none(t, nil)
+	none(t, &Mem{})
+}
+
+// none holds that a memory is none.
+func none(t *testing.T, m *Mem) {
+	t.Helper()
 	m.End(1)
 	v, ok := m.Read(at(1, 0), "i8")
 	w, is := m.Move(at(1, 0), 0)
