@@ -126,3 +126,16 @@ func BenchmarkRun(b *testing.B) {
 		ran("int i; for (;;) { int a[9]; for (i = 0; i < 9; i += 1) { a[i] = f(i); v = a[i] & 255; } }", "")
 	}
 }
+
+func TestInits(t *testing.T) { // P7.2: globals begin with their init
+	for init, want := range map[string]int{
+		"~5": 250, "!3": 0, "!0": 1, "-7": 249, "(char)300": 44, "(unsigned char)-1": 255, "1 && 0": 0, "2 && 3": 1, "0 || 7": 1, "0 || 0": 0, "1 ? 2 : 3": 2, "0 ? 1 / 0 : 4": 4, "0 && 1 / 0": 0, "5 - 8 < 0u": 0, "-1 < 0l": 1, "7 >= 7": 1, "9 > 10": 0, "1 << 5 | 3": 35, "-9 >> 1": 251, "sizeof(long[3])": 24, "-7 / 2": 253, "-7 % 4": 253, "'a' == 97": 1, "3 != 3u": 0, "4 <= 3": 0, "6 ^ 3 & 2": 4, "1 ? 5 : 6l": 5, "4294967295 + 1 > 0": 1,
+	} {
+		for _, typ := range []string{"int", "long", "unsigned char"} {
+			got := Program(typ+" g = "+init+"; "+typ+" a[2] = {0, "+init+"}; int main() { return g == a[1] ? g : 99; }", nil, 99)
+			if got.Kind != api.Exited || got.Code != want {
+				t.Errorf("P7.2: %s g = %s: %v", typ, init, got)
+			}
+		}
+	}
+}

@@ -37,9 +37,6 @@ func New() *Table {
 // Known answers the struct of a name, or nil.
 func (t *Table) Known(name string) *Struct { return t.structs[name] }
 
-// Typedef answers the typedef of a name, or nil.
-func (t *Table) Typedef(name string) *tree.Item { return t.typedefs[name] }
-
 // Order answers the structs that are known, in their items' order.
 func (t *Table) Order() []*Struct { return t.order }
 
