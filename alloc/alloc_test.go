@@ -99,7 +99,7 @@ func TestPlaces(t *testing.T) { // P22.1, P22.2
 
 func TestMany(t *testing.T) { // P22.1: many registers, all live at once
 	var ins []api.Ins
-	const n = 3000
+	const n = 7000
 	for r := range n {
 		ins = append(ins, walk.Const(r, int64(r)))
 	}

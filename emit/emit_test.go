@@ -171,6 +171,10 @@ func TestTail(t *testing.T) { // P24.3: a tail call takes no stack
 	if got.Kind != api.Exited || got.Code != 3 && got.Code != 5 || got.Code != ir.Run(p, nil, api.MaxFuel).Code {
 		t.Errorf("P24.3: %v, %v", got, ir.Run(p, nil, api.MaxFuel))
 	}
+	at := tail.Prog(alike.Text("typedef int F(int, int); F *h[2]; int one(int n, int s) { if (n == 0) return s; return h[n & 1](n - 1, s + 1); } int two(int n, int s) { if (n == 0) return s + 100; return h[n & 1](n - 1, s - 1); } int main() { h[0] = one; h[1] = two; return h[0](20001, 7); }"))
+	if got := read(t, at).Run(nil, 16*api.MaxFuel, api.MinStack); got.Kind != api.Exited || got.Code != ir.Run(at, nil, api.MaxFuel).Code || !strings.Contains(Text(at), "jmp\t*%rcx") {
+		t.Errorf("P24.3: %v, %v", got, ir.Run(at, nil, api.MaxFuel))
+	}
 	huge := api.Prog{Fns: []api.Fn{{Regs: 1, Value: true, Blocks: []api.Block{{Ins: []api.Ins{walk.Const(0, 1), {Op: api.OpRet, A: 0}}}}}}}
 	for range 40 {
 		huge.Fns[0].Slots = append(huge.Fns[0].Slots, api.MaxBytes)

@@ -68,7 +68,7 @@ func TestItems(t *testing.T) { // P5.1
 		},
 		api.ErrType: {
 			"void a;", "void *a;", "typedef int F(); F a;", "int f(void a) { return 1; }", "typedef int F(); int f(F a);", "typedef int F(); F f();", "struct S { int a; }; struct S f();", "struct S { int a; }; int f(struct S a);", "struct S { void a; };", "int f(); long f();", "int f(int a); int f() { return 1; }",
-			"int exit();", "int f(int a, int b, int c, int d, int e, int g, int h);", "typedef int F(int, int, int, int, int, int, int);", "int a = {1};", "int a[2] = 1;", "struct S { int a; }; struct S b = 0;", "struct S { int a; }; struct S b[1] = {0};", "int *a = 1;", "int a; int b = &a;", "int a; long *b = &a;",
+			"void f() { return 1; }", "void f() {} void g() { return f(); }", "long f() { return; }", "int exit();", "int f(int a, int b, int c, int d, int e, int g, int h);", "typedef int F(int, int, int, int, int, int, int);", "int a = {1};", "int a[2] = 1;", "struct S { int a; }; struct S b = 0;", "struct S { int a; }; struct S b[1] = {0};", "int *a = 1;", "int a; int b = &a;", "int a; long *b = &a;",
 			"typedef int F(); long k() { return 1; } F *a = k;", "typedef void F(void);", "typedef void *F();", "int a[1] = {1 / 0, &a};", "typedef int F(); struct S { F a; };", "typedef int F(); F *a = getbyte;",
 		},
 	} {
