@@ -120,16 +120,27 @@ func (s *Store) Write(p Value, typ string, v Value) bool {
 	return true
 }
 
+// at answers the block that p points into, or right behind; nil, if there is no such one.
+func (s *Store) at(p Value) *block {
+	k := s.blocks[p.Block]
+	if p.Kind != Pointer || k == nil || !k.spans(int64(p.Off)) {
+		return nil
+	}
+	return k
+}
+
+// spans tells whether a place is one of the block's bytes, or right behind the last one.
+func (k *block) spans(off int64) bool { return off >= 0 && off <= int64(k.size) }
+
 // Move answers p so many bytes on.
 func (s *Store) Move(p Value, by int64) (Value, bool) {
-	k := s.blocks[p.Block]
-	if p.Kind != Pointer || k == nil {
+	k := s.at(p)
+	if k == nil {
 		return Value{}, false
 	}
-	from := int64(p.Off)
-	to := from + by
-	wraps := (by > 0) != (to > from) && by != 0
-	if wraps || to < 0 || to > int64(k.size) {
+	// A sum of more than 64 bits wraps round to one below 0, as what p has is not below 0.
+	to := int64(p.Off) + by
+	if !k.spans(to) {
 		return Value{}, false
 	}
 	return Value{Kind: Pointer, Block: p.Block, Off: int(to)}, true
@@ -137,9 +148,7 @@ func (s *Store) Move(p Value, by int64) (Value, bool) {
 
 // within tells whether both point into, or right behind, one block that is there.
 func (s *Store) within(p Value, q Value) bool {
-	k := s.blocks[p.Block]
-	return p.Kind == Pointer && q.Kind == Pointer && p.Block == q.Block && k != nil &&
-		p.Off >= 0 && p.Off <= k.size && q.Off >= 0 && q.Off <= k.size
+	return p.Block == q.Block && s.at(p) != nil && s.at(q) != nil
 }
 
 // Less tells whether p is the lesser one.

@@ -60,17 +60,19 @@ func TestCells(t *testing.T) { // P6.1
 
 func TestMove(t *testing.T) { // P6.2
 	m := New()
-	b := m.Add(8)
-	far := Value{Kind: Pointer, N: 5, Block: b, Off: math.MinInt + 1}
+	b, gone := m.Add(8), m.Add(8)
+	m.End(gone)
 	for i, c := range []struct {
 		p    Value
 		by   int64
 		want Value
 		ok   bool
 	}{
-		{at(b, 0), 8, at(b, 8), true}, {at(b, 8), -8, at(b, 0), true}, {at(b, 0), 9, Value{}, false}, {at(b, 0), -1, Value{}, false}, {at(b, 20), -15, at(b, 5), true}, {at(b, -3), 3, at(b, 0), true},
-		{at(b, 5), math.MaxInt64, Value{}, false}, {at(b, -5), math.MinInt64, Value{}, false}, {far, math.MaxInt64, at(b, 0), true}, {at(b, math.MinInt), math.MinInt64, Value{}, false},
-		{at(0, 0), 0, Value{}, false}, {num(0), 0, Value{}, false}, {at(9, 0), 0, Value{}, false}, {at(b, 3), 0, at(b, 3), true},
+		{at(b, 0), 8, at(b, 8), true}, {at(b, 8), -8, at(b, 0), true}, {at(b, 8), 0, at(b, 8), true}, {at(b, 3), 0, at(b, 3), true}, {Value{Kind: Pointer, N: 5, Block: b, Off: 2}, 3, at(b, 5), true},
+		{at(b, 0), 9, Value{}, false}, {at(b, 0), -1, Value{}, false}, {at(b, 8), 1, Value{}, false}, {at(b, 8), -9, Value{}, false}, {at(b, 5), math.MaxInt64, Value{}, false}, {at(b, 8), math.MinInt64, Value{}, false},
+		{at(b, 9), -1, Value{}, false}, {at(b, 9), -9, Value{}, false}, {at(b, 9), 0, Value{}, false}, {at(b, -1), 1, Value{}, false}, {at(b, -1), 9, Value{}, false}, {at(b, -1), 0, Value{}, false}, {at(b, 20), -15, Value{}, false},
+		{at(b, math.MinInt+1), math.MaxInt64, Value{}, false}, {at(b, math.MaxInt), math.MinInt64 + 1, Value{}, false}, {at(b, math.MinInt), math.MinInt64, Value{}, false}, {at(b, math.MaxInt), math.MaxInt64, Value{}, false},
+		{at(gone, 3), 0, Value{}, false}, {at(0, 0), 0, Value{}, false}, {at(9, 0), 0, Value{}, false}, {num(0), 0, Value{}, false}, {Value{Kind: Function, Block: b}, 0, Value{}, false}, {Value{Block: b}, 0, Value{}, false},
 	} {
 		if got, ok := m.Move(c.p, c.by); got != c.want || ok != c.ok {
 			t.Errorf("P6.2: Move, the %d-th: %v %v", i, got, ok)
