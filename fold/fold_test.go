@@ -47,6 +47,12 @@ func TestKnown(t *testing.T) { // P14.1
 			t.Errorf("P14.1: an end, the %d-th: %v", i, got[2])
 		}
 	}
+	below := api.Block{Ins: []api.Ins{walk.Const(-5, 7), walk.Move(1, -5), {Op: api.OpIn, D: -5}, walk.Move(2, -5), walk.Const(-1, 8), {Op: api.OpCall, D: -1}, walk.Move(3, -1), {Op: api.OpLoad, D: -1, A: 0}, walk.Move(4, -1)}}
+	for k, want := range map[int]api.Ins{1: walk.Const(1, 7), 3: walk.Move(2, -5), 6: walk.Const(3, 8), 8: walk.Move(4, -1)} {
+		if got := Known(below)[k]; !ir.Same(one(got), one(want)) {
+			t.Errorf("P14.1: registers below 0, the %d-th: %v", k, got)
+		}
+	}
 	if Known(api.Block{}) != nil {
 		t.Error("P14.1: Known of an empty block")
 	}

@@ -188,6 +188,7 @@ func TestHelp(t *testing.T) { // P8.2
 		pure bool
 	}{
 		{store(i8, 3, 4), []int{3, 4}, false}, {bin(api.Add, 1, 5, 5), []int{5, 5}, true}, {bin(api.UMod, 1, 5, 6), []int{5, 6}, false}, {bin(api.Div, 1, 5, 6), []int{5, 6}, false}, {api.Ins{Op: api.OpCallAt, D: 0, A: 2, Args: []int{7, 2}}, []int{2, 7, 2}, false}, {ret(-1), nil, false}, {ret(2), []int{2}, false},
+		{ret(0), []int{0}, false}, {ret(-2), []int{-2}, false}, {ret(-5), []int{-5}, false}, {ret(math.MinInt), []int{math.MinInt}, false}, {api.Ins{Op: api.OpMove, A: -1}, []int{-1}, true}, {api.Ins{Op: api.OpOut, A: -5}, []int{-5}, false}, {api.Ins{Op: api.OpExit, A: -1}, []int{-1}, false},
 		{con(1, 1), nil, true}, {api.Ins{Op: api.OpMove, A: 3}, []int{3}, true}, {api.Ins{Op: api.OpExt, A: 3}, []int{3}, true}, {load(i8, 1, 2), []int{2}, false}, {api.Ins{Op: api.OpFunc, A: 9}, nil, true}, {api.Ins{Op: api.OpSlot}, nil, true}, {api.Ins{Op: api.OpGlobal}, nil, true}, {api.Ins{Op: api.OpIn}, nil, false},
 		{api.Ins{Op: api.OpTail, A: 9, Args: []int{1}}, []int{1}, false}, {api.Ins{Op: api.OpBranch, A: 1}, []int{1}, false}, {api.Ins{Op: api.OpExit, A: 1}, []int{1}, false}, {api.Ins{Op: api.OpOut, A: 1}, []int{1}, false}, {api.Ins{Op: 77, A: 1, Args: []int{1}}, nil, false}, {api.Ins{Op: api.OpJump}, nil, false},
 	} {

@@ -27,7 +27,7 @@ func (n Numbers) Step(i *api.Ins) (api.Ins, bool) {
 		if ok {
 			return walk.Jump(to), true
 		}
-	case walk.Def(i) >= 0:
+	case walk.Writes(i):
 		delete(n, i.D)
 	}
 	return *i, false

@@ -34,7 +34,7 @@ func Form(f *api.Fn) bool {
 // registers tells whether all registers of an instruction are there.
 func registers(f *api.Fn, i *api.Ins) bool {
 	has := func(r int) bool { return r >= 0 && r < f.Regs }
-	if readsA(i) && !has(i.A) || readsB(i) && !has(i.B) || i.Op == api.OpRet && i.A < -1 {
+	if readsA(i) && !has(i.A) || readsB(i) && !has(i.B) || Writes(i) && !has(i.D) {
 		return false
 	}
 	if Calls(i.Op) {
@@ -43,12 +43,6 @@ func registers(f *api.Fn, i *api.Ins) bool {
 				return false
 			}
 		}
-	}
-	switch i.Op {
-	case api.OpCall, api.OpCallAt:
-		return i.D == -1 || has(i.D)
-	case api.OpConst, api.OpMove, api.OpBin, api.OpExt, api.OpLoad, api.OpSlot, api.OpGlobal, api.OpFunc, api.OpIn:
-		return has(i.D)
 	}
 	return true
 }

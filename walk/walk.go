@@ -6,22 +6,32 @@ import "spokeshave/api"
 // Ends tells whether an operation is one that ends a block.
 func Ends(op int) bool { return op >= api.OpJump && op <= api.OpTrap }
 
-// Def answers the register that an instruction writes; -1, if none.
-func Def(i *api.Ins) int {
+// Writes tells whether an instruction writes its D, whatever that is: of calls -1 alone is nothing.
+func Writes(i *api.Ins) bool {
 	switch i.Op {
-	case api.OpConst, api.OpMove, api.OpBin, api.OpExt, api.OpLoad, api.OpSlot, api.OpGlobal, api.OpFunc, api.OpCall, api.OpCallAt, api.OpIn:
+	case api.OpConst, api.OpMove, api.OpBin, api.OpExt, api.OpLoad, api.OpSlot, api.OpGlobal, api.OpFunc, api.OpIn:
+		return true
+	case api.OpCall, api.OpCallAt:
+		return i.D != -1
+	}
+	return false
+}
+
+// Def answers the register that an instruction of a function that may be writes; -1, if none.
+func Def(i *api.Ins) int {
+	if Writes(i) {
 		return i.D
 	}
 	return -1
 }
 
-// readsA tells whether an instruction reads A.
+// readsA tells whether an instruction reads A, whatever that is: of OpRet -1 alone is nothing.
 func readsA(i *api.Ins) bool {
 	switch i.Op {
 	case api.OpMove, api.OpBin, api.OpExt, api.OpLoad, api.OpStore, api.OpCallAt, api.OpOut, api.OpBranch, api.OpSwitch, api.OpExit, api.OpTailAt:
 		return true
 	case api.OpRet:
-		return i.A >= 0
+		return i.A != -1
 	}
 	return false
 }
@@ -65,7 +75,7 @@ func Reread(i *api.Ins, to func(int) int) {
 // Rename gives each register that an instruction names its new number. Its Args are changed in place.
 func Rename(i *api.Ins, to func(int) int) {
 	Reread(i, to)
-	if Def(i) >= 0 {
+	if Writes(i) {
 		i.D = to(i.D)
 	}
 }
