@@ -109,6 +109,26 @@ func TestFuel(t *testing.T) { // P8.1
 	}
 }
 
+func TestManyRegs(t *testing.T) { // P8.1: what a function does not name costs nothing
+	p := one(con(8, 300), api.Ins{Op: api.OpJump, To: []int{1}})
+	p.Fns[0].Blocks = append(p.Fns[0].Blocks,
+		api.Block{Ins: []api.Ins{con(0, 998), call(7, 3, 0, 8), con(1, 1), bin(api.Sub, 8, 8, 1), {Op: api.OpBranch, A: 8, To: []int{1, 2}}}},
+		api.Block{Ins: []api.Ins{ret(7)}})
+	f := fn(2, 100000, true, api.Ins{Op: api.OpBranch, A: 0, To: []int{1, 2}})
+	f.Blocks = append(f.Blocks,
+		api.Block{Ins: []api.Ins{con(99999, 1), bin(api.Sub, 0, 0, 99999), call(70000, 3, 0, 1), ret(70000)}},
+		api.Block{Ins: []api.Ins{bin(api.Add, 60000, 1, 50000), con(50000, 5), ret(60000)}})
+	p.Fns = append(p.Fns, f)
+	before := Copy(p)
+	if got := Run(p, nil, api.MaxFuel); got.Kind != api.OutOfFuel || !Same(p, before) {
+		t.Errorf("P8.1: many registers: %v", got)
+	}
+	p.Fns[0].Blocks[0].Ins[0].N = 7
+	if got := Run(p, nil, api.MaxFuel); got.Kind != api.Exited || got.Code != 1 {
+		t.Errorf("P8.1: many registers: %v", got)
+	}
+}
+
 func TestZeros(t *testing.T) { // P8.1
 	p := one(call(0, 3), call(1, 3), ret(1))
 	f := fn(0, 5, true, load(i8, 2, 4), api.Ins{Op: api.OpSlot, D: 0, N: 0}, load(i64, 1, 0), con(2, 9), store(i64, 0, 2), ret(1))

@@ -5,6 +5,7 @@ import (
 
 	"spokeshave/api"
 	"spokeshave/little"
+	"spokeshave/walk"
 	"spokeshave/word"
 )
 
@@ -12,6 +13,8 @@ const (
 	mostCalls  = 1000
 	stackBytes = 1 << 20
 	fnBytes    = 16 // from one function's address to the next one's
+	// fewRegs is how many registers a function may have without being asked whether it names them.
+	fewRegs = 256
 )
 
 // frame is a call. base: where its registers begin; top: where the stack stood ahead of its slots; low: where they begin; d: the caller's register that gets the answer.
@@ -45,6 +48,7 @@ func Run(p api.Prog, input []byte, fuel int) api.Outcome {
 	if fuel < 0 || fuel > api.MaxFuel || len(input) > api.MaxInput || !Check(p) {
 		return api.Outcome{Kind: api.Invalid}
 	}
+	p.Fns = packed(p.Fns)
 	m := machine{prog: &p, input: input, fuel: fuel}
 	m.fill()
 	m.enter(p.Main, nil, -1, api.StackTop)
@@ -52,6 +56,18 @@ func Run(p api.Prog, input []byte, fuel int) api.Outcome {
 		m.step()
 	}
 	return api.Outcome{Kind: m.kind, Code: m.code, Out: m.out}
+}
+
+// packed answers the functions, those of many registers with the ones alone that they name, as a call costs what its registers cost.
+func packed(fns []api.Fn) []api.Fn {
+	out := slices.Clone(fns)
+	for k := range out {
+		if out[k].Regs > fewRegs {
+			out[k] = walk.CopyFn(out[k])
+			walk.Pack(&out[k])
+		}
+	}
+	return out
 }
 
 // fill lays the globals out, and tells how far below its frame's top each slot begins.
